@@ -19,6 +19,16 @@ func (s set) with(i int64) set {
 	return s | 1<<i
 }
 
+func (s set) only(wanted func(int64) bool) set {
+	found := set(0)
+	for _, i := range picked(s.has) {
+		if wanted(i) {
+			found = found.with(i)
+		}
+	}
+	return found
+}
+
 func (s set) size() int64 { return int64(bits.OnesCount64(uint64(s))) }
 
 func fitsSet(i int64) bool { return i >= 0 && i < setRoom }
